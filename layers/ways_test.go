@@ -1,0 +1,71 @@
+package layers
+
+import (
+	"go/ast"
+	"go/token"
+	"path/filepath"
+	"strings"
+	"testing"
+)
+
+// ways is what the document's section 'Ways' asks of the layers that are
+// built, as far as the text alone shows it.
+const ways = `
+octet array
+crc constant-table
+stamp constant-table label
+`
+
+// tables tells whether d declares a variable whose value is written out there.
+func tables(d ast.Decl) bool {
+	g, ok := d.(*ast.GenDecl)
+	if !ok || g.Tok != token.VAR {
+		return false
+	}
+	for _, spec := range g.Specs {
+		for _, v := range spec.(*ast.ValueSpec).Values {
+			if _, ok := v.(*ast.CompositeLit); ok {
+				return true
+			}
+		}
+	}
+	return false
+}
+
+func waysOf(f *ast.File) map[string]bool {
+	got := map[string]bool{}
+	for _, d := range f.Decls {
+		if tables(d) {
+			got["constant-table"] = true
+		}
+	}
+	ast.Inspect(f, func(n ast.Node) bool {
+		switch x := n.(type) {
+		case *ast.LabeledStmt:
+			got["label"] = true
+		case *ast.ArrayType:
+			if x.Len != nil {
+				got["array"] = true
+			}
+		}
+		return true
+	})
+	return got
+}
+
+func TestWays(t *testing.T) {
+	got := map[string]bool{}
+	for _, s := range sources(t) {
+		for way := range waysOf(s.file) {
+			got[filepath.Base(filepath.Dir(s.path))+" "+way] = true
+		}
+	}
+	for line := range strings.Lines(strings.TrimSpace(ways)) {
+		words := strings.Fields(line)
+		for _, way := range words[1:] {
+			if !got[words[0]+" "+way] {
+				t.Errorf("%s has no %s", words[0], way)
+			}
+		}
+	}
+}
