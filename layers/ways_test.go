@@ -14,6 +14,7 @@ const ways = `
 octet array
 crc constant-table
 stamp constant-table label
+utf fallthrough
 `
 
 // tables tells whether d declares a variable whose value is written out there.
@@ -43,6 +44,10 @@ func waysOf(f *ast.File) map[string]bool {
 		switch x := n.(type) {
 		case *ast.LabeledStmt:
 			got["label"] = true
+		case *ast.BranchStmt:
+			if x.Tok == token.FALLTHROUGH {
+				got["fallthrough"] = true
+			}
 		case *ast.ArrayType:
 			if x.Len != nil {
 				got["array"] = true
