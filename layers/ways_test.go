@@ -15,6 +15,7 @@ octet array
 crc constant-table
 stamp constant-table label
 utf fallthrough
+ber label
 `
 
 // tables tells whether d declares a variable whose value is written out there.
