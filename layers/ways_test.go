@@ -16,6 +16,7 @@ crc constant-table
 stamp constant-table label
 utf fallthrough
 ber label
+oid three-index
 `
 
 // tables tells whether d declares a variable whose value is written out there.
@@ -52,6 +53,10 @@ func waysOf(f *ast.File) map[string]bool {
 		case *ast.ArrayType:
 			if x.Len != nil {
 				got["array"] = true
+			}
+		case *ast.SliceExpr:
+			if x.Slice3 {
+				got["three-index"] = true
 			}
 		}
 		return true
