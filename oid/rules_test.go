@@ -60,6 +60,23 @@ func TestFirstWrongThing(t *testing.T) {
 	}
 }
 
+// R2: what the chapter does not refuse may be: identifiers that nobody was given,
+// arcs that are all 0 or all the most, a child of any other.
+func TestWhatIsNotRefused(t *testing.T) {
+	for _, arcs := range [][]int{{0, 0}, {0, 39}, {1, 39}, {2, 40}, {2, 4294967215}, make([]int, 128), append([]int{2, 4294967215}, slices.Repeat([]int{4294967295}, 126)...)} {
+		isOne(t, plainText(arcs), arcs, plainBody(arcs))
+		for long := 2; long < len(arcs); long++ {
+			root := plainText(arcs[:long])
+			if s, e := oid.Child(root, arcs[long]); s != plainText(arcs[:long+1]) || e != api.OK {
+				t.Errorf("Child(%q, %d) = %q, %d", root, arcs[long], s, e)
+			}
+			if s, e := oid.Rest(root, plainText(arcs)); s != plainText(arcs[long:]) || e != api.OK {
+				t.Errorf("Rest(%q) = %q, %d", root, s, e)
+			}
+		}
+	}
+}
+
 // R3: no arcs, nil or empty, are none's.
 func TestNoArcs(t *testing.T) {
 	noText(t, nil)
