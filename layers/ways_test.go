@@ -17,6 +17,7 @@ stamp constant-table label
 utf fallthrough
 ber label
 oid three-index
+value fallthrough
 `
 
 // tables tells whether d declares a variable whose value is written out there.
