@@ -18,6 +18,7 @@ utf fallthrough
 ber label
 oid three-index
 value fallthrough
+pdu array
 `
 
 // tables tells whether d declares a variable whose value is written out there.
