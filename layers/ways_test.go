@@ -19,6 +19,7 @@ ber label
 oid three-index
 value fallthrough
 pdu array
+trap struct-compared
 `
 
 // tables tells whether d declares a variable whose value is written out there.
@@ -33,6 +34,20 @@ func tables(d ast.Decl) bool {
 				return true
 			}
 		}
+	}
+	return false
+}
+
+// literal tells whether e is a struct's, as far as the text shows it: a type's
+// name, and what it is of.
+func literal(e ast.Expr) bool {
+	c, ok := ast.Unparen(e).(*ast.CompositeLit)
+	if !ok {
+		return false
+	}
+	switch c.Type.(type) {
+	case *ast.Ident, *ast.SelectorExpr:
+		return true
 	}
 	return false
 }
@@ -59,6 +74,10 @@ func waysOf(f *ast.File) map[string]bool {
 		case *ast.SliceExpr:
 			if x.Slice3 {
 				got["three-index"] = true
+			}
+		case *ast.BinaryExpr:
+			if (x.Op == token.EQL || x.Op == token.NEQ) && (literal(x.X) || literal(x.Y)) {
+				got["struct-compared"] = true
 			}
 		}
 		return true
