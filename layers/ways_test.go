@@ -20,6 +20,7 @@ oid three-index
 value fallthrough
 pdu array
 trap struct-compared
+quote fallthrough
 `
 
 // tables tells whether d declares a variable whose value is written out there.
