@@ -21,6 +21,7 @@ value fallthrough
 pdu array
 trap struct-compared
 quote fallthrough
+syslog array constant-table
 `
 
 // tables tells whether d declares a variable whose value is written out there.
