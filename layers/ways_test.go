@@ -22,6 +22,7 @@ pdu array
 trap struct-compared
 quote fallthrough
 syslog array constant-table
+frame fallthrough label
 `
 
 // tables tells whether d declares a variable whose value is written out there.
