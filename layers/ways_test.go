@@ -23,6 +23,7 @@ trap struct-compared
 quote fallthrough
 syslog array constant-table
 frame fallthrough label
+glob array embedding
 `
 
 // tables tells whether d declares a variable whose value is written out there.
@@ -73,6 +74,12 @@ func waysOf(f *ast.File) map[string]bool {
 		case *ast.ArrayType:
 			if x.Len != nil {
 				got["array"] = true
+			}
+		case *ast.StructType:
+			for _, f := range x.Fields.List {
+				if len(f.Names) == 0 {
+					got["embedding"] = true
+				}
 			}
 		case *ast.SliceExpr:
 			if x.Slice3 {
