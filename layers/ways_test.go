@@ -11,7 +11,7 @@ import (
 // ways is what the document's section 'Ways' asks of the layers that are
 // built, as far as the text alone shows it.
 const ways = `
-octet array
+octet array method-value
 crc constant-table
 stamp constant-table label
 utf fallthrough
@@ -24,6 +24,7 @@ quote fallthrough
 syslog array constant-table
 frame fallthrough label
 glob array embedding
+lex iota method-value
 `
 
 // tables tells whether d declares a variable whose value is written out there.
@@ -56,8 +57,30 @@ func literal(e ast.Expr) bool {
 	return false
 }
 
+// methodValue tells whether a method that f declares is named there, and not called.
+func methodValue(f *ast.File) bool {
+	methods := map[string]bool{}
+	for _, d := range f.Decls {
+		if m, ok := d.(*ast.FuncDecl); ok && m.Recv != nil {
+			methods[m.Name.Name] = true
+		}
+	}
+	found := false
+	called := map[ast.Expr]bool{}
+	ast.Inspect(f, func(n ast.Node) bool {
+		switch x := n.(type) {
+		case *ast.CallExpr:
+			called[ast.Unparen(x.Fun)] = true
+		case *ast.SelectorExpr:
+			found = found || methods[x.Sel.Name] && !called[x]
+		}
+		return true
+	})
+	return found
+}
+
 func waysOf(f *ast.File) map[string]bool {
-	got := map[string]bool{}
+	got := map[string]bool{"method-value": methodValue(f)}
 	for _, d := range f.Decls {
 		if tables(d) {
 			got["constant-table"] = true
@@ -65,6 +88,10 @@ func waysOf(f *ast.File) map[string]bool {
 	}
 	ast.Inspect(f, func(n ast.Node) bool {
 		switch x := n.(type) {
+		case *ast.Ident:
+			if x.Name == "iota" {
+				got["iota"] = true
+			}
 		case *ast.LabeledStmt:
 			got["label"] = true
 		case *ast.BranchStmt:
@@ -98,8 +125,10 @@ func waysOf(f *ast.File) map[string]bool {
 func TestWays(t *testing.T) {
 	got := map[string]bool{}
 	for _, s := range sources(t) {
-		for way := range waysOf(s.file) {
-			got[filepath.Base(filepath.Dir(s.path))+" "+way] = true
+		for way, has := range waysOf(s.file) {
+			if has {
+				got[filepath.Base(filepath.Dir(s.path))+" "+way] = true
+			}
 		}
 	}
 	for line := range strings.Lines(strings.TrimSpace(ways)) {
