@@ -25,6 +25,7 @@ syslog array constant-table
 frame fallthrough label
 glob array embedding
 lex iota method-value
+parse iota generic-function
 `
 
 // tables tells whether d declares a variable whose value is written out there.
@@ -84,6 +85,9 @@ func waysOf(f *ast.File) map[string]bool {
 	for _, d := range f.Decls {
 		if tables(d) {
 			got["constant-table"] = true
+		}
+		if f, ok := d.(*ast.FuncDecl); ok && f.Type.TypeParams != nil {
+			got["generic-function"] = true
 		}
 	}
 	ast.Inspect(f, func(n ast.Node) bool {
