@@ -26,6 +26,7 @@ frame fallthrough label
 glob array embedding
 lex iota method-value
 parse iota generic-function
+check map
 `
 
 // tables tells whether d declares a variable whose value is written out there.
@@ -106,6 +107,8 @@ func waysOf(f *ast.File) map[string]bool {
 			if x.Len != nil {
 				got["array"] = true
 			}
+		case *ast.MapType:
+			got["map"] = true
 		case *ast.StructType:
 			for _, f := range x.Fields.List {
 				if len(f.Names) == 0 {
